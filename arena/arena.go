@@ -42,24 +42,34 @@ func (a *Arena) Free(r api.Ref) error {
 
 // Load a word.
 func (a *Arena) Load(r api.Ref, w int) (int, error) {
-	if !a.has(r) {
-		return 0, api.ErrStale
-	}
-	if !isIndex(w) {
-		return 0, api.ErrBound
+	if err := a.Check(r, w); err != nil {
+		return 0, err
 	}
 	return int(a.words[r.Cell][w]), nil
 }
 
 // Store a word.
 func (a *Arena) Store(r api.Ref, w, v int) error {
+	if err := a.Check(r, w, v); err != nil {
+		return err
+	}
+	a.words[r.Cell][w] = uint32(v)
+	return nil
+}
+
+// Check what Load of word w of r would answer, or Store of these values there: it stands by itself for stores that are done later.
+func (a *Arena) Check(r api.Ref, w int, values ...int) error {
 	if !a.has(r) {
 		return api.ErrStale
 	}
-	if !isIndex(w) || !isWord(v) {
+	if w < 0 || w >= api.Words {
 		return api.ErrBound
 	}
-	a.words[r.Cell][w] = uint32(v)
+	for _, v := range values {
+		if !isWord(v) {
+			return api.ErrBound
+		}
+	}
 	return nil
 }
 
@@ -96,7 +106,5 @@ func (a *Arena) has(r api.Ref) bool {
 	}
 	return r.Gen == a.given[r.Cell]-1
 }
-
-func isIndex(w int) bool { return w >= 0 && w < api.Words }
 
 func isWord(n int) bool { return n >= 0 && n <= maxWord }

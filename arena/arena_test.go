@@ -154,6 +154,33 @@ func TestStoreLoad(t *testing.T) {
 	}
 }
 
+// Check tells what Load and Store would, of any number of values, and changes nothing.
+func TestCheck(t *testing.T) {
+	a := filled(t, 2)
+	mustFree(t, a, api.Ref{})
+	mustStore(t, a, api.Ref{Cell: 1}, 3, 5)
+	ahead := *a
+	for _, c := range []struct {
+		cell, w int
+		values  []int
+		want    error
+	}{
+		{1, 0, nil, nil}, {1, 3, []int{0}, nil}, {1, 3, []int{1<<32 - 1, 0, 7}, nil},
+		{1, -1, nil, api.ErrBound}, {1, api.Words, []int{1}, api.ErrBound},
+		{1, 0, []int{-1}, api.ErrBound}, {1, 0, []int{1 << 32}, api.ErrBound},
+		{1, 0, []int{1, 2, -1}, api.ErrBound}, {1, 0, []int{1 << 32, 2, 1}, api.ErrBound},
+		{0, 0, nil, api.ErrStale}, {0, -1, []int{-1}, api.ErrStale}, {2, 0, []int{1}, api.ErrStale},
+	} {
+		if err := a.Check(api.Ref{Cell: c.cell}, c.w, c.values...); err != c.want || *a != ahead {
+			t.Error(c, err)
+		}
+	}
+	var none *Arena
+	if err := none.Check(api.Ref{}, 0); err != api.ErrStale {
+		t.Error(err)
+	}
+}
+
 // P10: numbers that are none of a word, and words that are none of a cell.
 func TestBounds(t *testing.T) {
 	a := filled(t, 2)
