@@ -3,7 +3,8 @@ package arena
 
 import "quiescent/api"
 
-const maxWord = 1<<32 - 1
+// MaxWord is the greatest number that a word holds.
+const MaxWord = 1<<32 - 1
 
 // Arena of cells.
 type Arena struct {
@@ -107,4 +108,4 @@ func (a *Arena) has(r api.Ref) bool {
 	return r.Gen == a.given[r.Cell]-1
 }
 
-func isWord(n int) bool { return n >= 0 && n <= maxWord }
+func isWord(n int) bool { return n >= 0 && n <= MaxWord }

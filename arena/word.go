@@ -8,7 +8,7 @@ func Word(r api.Ref) (int, error) {
 		return 0, api.ErrBound
 	}
 	// Gen is held against its bound, as Gen times MaxCells may go round.
-	if r.Gen > (maxWord-1-r.Cell)/api.MaxCells {
+	if r.Gen > (MaxWord-1-r.Cell)/api.MaxCells {
 		return 0, api.ErrBound
 	}
 	return r.Gen*api.MaxCells + r.Cell + 1, nil
