@@ -24,8 +24,8 @@ func check(x api.Instr, at int, set map[string]int) error {
 	return nil
 }
 
-// labels tells where each one is set first: a label may stand behind what goes to it.
-func labels(l []api.Instr) map[string]int {
+// Labels tells where each label is set first: it may stand behind what goes to it.
+func Labels(l []api.Instr) map[string]int {
 	set := map[string]int{}
 	for i, x := range l {
 		if _, there := set[x.To]; x.Op == "label" && !there {

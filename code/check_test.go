@@ -164,3 +164,14 @@ func TestMaxCode(t *testing.T) {
 		}
 	}
 }
+
+// P31: where each label is set first, whatever else the code is.
+func TestSetLabels(t *testing.T) {
+	got := Labels([]api.Instr{{Op: "goto", To: "c"}, {Op: "label", To: "a"}, {}, {Op: "label", To: "b"}, {Op: "label", To: "a"}})
+	if len(got) != 2 || got["a"] != 1 || got["b"] != 3 {
+		t.Error(got)
+	}
+	if got := Labels(nil); len(got) != 0 {
+		t.Error(got)
+	}
+}
