@@ -85,6 +85,31 @@ func (a *Arena) Count() int {
 	return n
 }
 
+// State tells in numbers all that later calls hang on: two arenas of one size are the same where it is. The words of a cell that is gone are left out, as nobody loads them any more.
+func (a *Arena) State() []int {
+	var l []int
+	for cell := range a.cells() {
+		l = append(l, a.given[cell])
+		if a.given[cell] == 0 { // Alloc takes the least one, so that none behind it was given, either
+			break
+		}
+		l = append(l, a.wordsOf(cell)...)
+	}
+	return l
+}
+
+// wordsOf a cell, how many there are ahead of them: none, if it is gone.
+func (a *Arena) wordsOf(cell int) []int {
+	if !a.there[cell] {
+		return []int{0}
+	}
+	l := []int{api.Words}
+	for _, v := range a.words[cell] {
+		l = append(l, int(v))
+	}
+	return l
+}
+
 // cells is how many the arena has: none if it is nil, which New answers with an error and no call may panic on.
 func (a *Arena) cells() int {
 	if a == nil {

@@ -38,3 +38,12 @@ func (l *line) last(cell api.Ref, word int) (int, bool) {
 	}
 	return 0, false
 }
+
+// state is how many wait, and then each of them.
+func (l *line) state() []int {
+	n := []int{l.length}
+	for _, s := range l.stores[:l.length] {
+		n = append(n, s.cell.Cell, s.cell.Gen, s.word, s.value)
+	}
+	return n
+}
