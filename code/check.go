@@ -15,7 +15,7 @@ func check(x api.Instr, at int, set map[string]int) error {
 		return nil
 	}
 	first, there := set[x.To]
-	if !isName(x.To) || x.Op == "label" && first != at {
+	if !IsName(x.To) || x.Op == "label" && first != at {
 		return api.ErrName
 	}
 	if !there {
@@ -35,7 +35,8 @@ func Labels(l []api.Instr) map[string]int {
 	return set
 }
 
-func isName(s string) bool {
+// IsName tells if a label may be called so.
+func IsName(s string) bool {
 	if s == "" || len(s) > api.MaxName || !isSmall(s[0]) {
 		return false
 	}

@@ -81,6 +81,20 @@ func TestKinds(t *testing.T) {
 	}
 }
 
+// P30: which instructions have a label.
+func TestHasLabel(t *testing.T) {
+	for op, has := range fields {
+		if HasLabel(op) != strings.HasSuffix(has, "t") {
+			t.Error(op, HasLabel(op))
+		}
+	}
+	for _, op := range []string{"", "Label", "what"} {
+		if HasLabel(op) {
+			t.Error(op)
+		}
+	}
+}
+
 // P31: an Op is one of the names, to the byte.
 func TestOps(t *testing.T) {
 	for _, op := range []string{"", "what", "Fence", "fence ", " fence", "fences", "fenc", "FENCE", "a", "\xff", "fence\n", "const 0 1"} {

@@ -38,6 +38,12 @@ func kindOf(op string) (kind, bool) {
 	return kind{}, false
 }
 
+// HasLabel tells if instructions of that name set a label, or go to one.
+func HasLabel(op string) bool {
+	k, _ := kindOf(op)
+	return k.to
+}
+
 // fits tells if what the kind has not is zero.
 func (k kind) fits(x api.Instr) bool {
 	for i, n := range numbers(x) {
