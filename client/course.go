@@ -1,9 +1,9 @@
 package client
 
-import "quiescent/api"
-
-// greatest number that is put.
-const greatest = 1000
+import (
+	"quiescent/api"
+	"quiescent/threads"
+)
 
 // course of a thread: what there is ahead of an op.
 type course struct {
@@ -14,33 +14,13 @@ type course struct {
 
 // follow each thread, up to the first op that is wrong; each one ahead of that is shown to see.
 func follow(l [][]api.Op, see func(ahead course, x api.Op)) error {
-	if !fits(l) {
-		return api.ErrBound
-	}
-	for t, ops := range l {
-		if err := followOne(ops, see); err != nil {
-			return &api.Fault{At: t, Err: err}
-		}
-	}
-	return nil
-}
-
-func fits(l [][]api.Op) bool {
-	if len(l) < 1 || len(l) > api.MaxThreads {
-		return false
-	}
-	for _, ops := range l {
-		if len(ops) > api.MaxOps {
-			return false
-		}
-	}
-	return true
+	return threads.Each(l, func(ops []api.Op) error { return followOne(ops, see) })
 }
 
 func followOne(ops []api.Op, see func(ahead course, x api.Op)) error {
 	var c course
 	for _, x := range ops {
-		if err := checkShape(x); err != nil {
+		if err := threads.Shape(x, "put", "enter", "leave", "rest", "wait", "read", "drop", "later", "flush"); err != nil {
 			return err
 		}
 		if err := c.check(x.Kind); err != nil {
@@ -53,22 +33,6 @@ func followOne(ops []api.Op, see func(ahead course, x api.Op)) error {
 		return api.ErrHeld
 	}
 	return nil
-}
-
-// checkShape of an op by itself.
-func checkShape(x api.Op) error {
-	switch x.Kind {
-	case "put":
-		if x.N < 1 || x.N > greatest {
-			return api.ErrBound
-		}
-		return nil
-	case "enter", "leave", "rest", "wait", "read", "drop", "later", "flush":
-		if x.N == 0 {
-			return nil
-		}
-	}
-	return api.ErrShape
 }
 
 // check that an op may come next.

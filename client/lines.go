@@ -1,15 +1,16 @@
 package client
 
-import "quiescent/api"
+import (
+	"quiescent/api"
+	"quiescent/grace"
+	"quiescent/threads"
+)
 
-// Registers: grace has 0, 1 and 2, too, and leaves 3 to 5 alone.
+// Registers: threads.Root names the cell that names what is published.
 const (
-	some    = 0
-	retired = 3 // names what was retired last; 0, if there was no cell
-	list    = 4 // names the thread's list: the cell that came to it last; 0: none
-	root    = 5 // names the cell that names what is published
-	own     = 6
-	hub     = 7
+	some    = threads.Some
+	retired = threads.Node // names what was retired last; 0, if there was no cell
+	root    = threads.Root
 )
 
 // Words of a cell that is put; its first one is also that of the root.
@@ -17,6 +18,33 @@ const (
 	value = 0
 	next  = 1 // the one that came to the list ahead of it
 )
+
+// flavour of grace.
+type flavour int
+
+// op of a client, as code.
+func (f flavour) op(x api.Op) ([]api.Instr, error) {
+	switch x.Kind {
+	case "enter":
+		return grace.Enter(int(f), "g")
+	case "leave":
+		return grace.Leave(int(f), "g")
+	case "rest":
+		return grace.Rest(int(f), "g")
+	case "wait":
+		return grace.Wait(int(f), "g")
+	case "flush":
+		l, err := grace.Wait(int(f), "g")
+		return append(l, threads.Empty(next)...), err
+	case "read":
+		return read(), nil
+	case "put":
+		return put(x.N), nil
+	case "drop": // it leaves the register as it is: the next one that asks for it is behind a put
+		return threads.Unless(retired, api.Instr{Op: "free", A: retired}), nil
+	}
+	return threads.Unless(retired, threads.Keep(next)...), nil // readers that still have the cell do not look at its link
+}
 
 func read() []api.Instr {
 	return []api.Instr{
@@ -29,46 +57,10 @@ func read() []api.Instr {
 
 // put needs no fence ahead of its swap: that is one, so that nobody finds the cell without its number.
 func put(n int) []api.Instr {
-	return []api.Instr{
-		{Op: "alloc", A: retired},
-		{Op: "zero", A: retired, To: "none"},
-		{Op: "const", A: some, B: n},
-		{Op: "store", A: retired, B: some, C: value},
-		{Op: "swap", A: retired, B: root, C: value},
-		{Op: "label", To: "none"},
-	}
+	alloc := []api.Instr{{Op: "alloc", A: retired}}
+	return append(alloc, threads.Unless(retired,
+		api.Instr{Op: "const", A: some, B: n},
+		api.Instr{Op: "store", A: retired, B: some, C: value},
+		api.Instr{Op: "swap", A: retired, B: root, C: value},
+	)...)
 }
-
-// drop leaves the register as it is: the next one that asks for it is behind a put.
-func drop() []api.Instr {
-	return []api.Instr{
-		{Op: "zero", A: retired, To: "none"},
-		{Op: "free", A: retired},
-		{Op: "label", To: "none"},
-	}
-}
-
-// later: readers that still have the cell do not look at its link.
-func later() []api.Instr {
-	return []api.Instr{
-		{Op: "zero", A: retired, To: "none"},
-		{Op: "store", A: retired, B: list, C: next},
-		{Op: "move", A: list, B: retired},
-		{Op: "label", To: "none"},
-	}
-}
-
-// empty the list.
-func empty() []api.Instr {
-	return []api.Instr{
-		{Op: "label", To: "more"},
-		{Op: "zero", A: list, To: "none"},
-		{Op: "load", A: some, B: list, C: next},
-		{Op: "free", A: list},
-		{Op: "move", A: list, B: some},
-		{Op: "goto", To: "more"},
-		{Op: "label", To: "none"},
-	}
-}
-
-func stop() []api.Instr { return []api.Instr{{Op: "stop"}} }
