@@ -15,7 +15,7 @@ const (
 
 // Words of a cell that is put; its first one is also that of the root.
 const (
-	value = 0
+	value = threads.Value
 	next  = 1 // the one that came to the list ahead of it
 )
 
@@ -57,10 +57,5 @@ func read() []api.Instr {
 
 // put needs no fence ahead of its swap: that is one, so that nobody finds the cell without its number.
 func put(n int) []api.Instr {
-	alloc := []api.Instr{{Op: "alloc", A: retired}}
-	return append(alloc, threads.Unless(retired,
-		api.Instr{Op: "const", A: some, B: n},
-		api.Instr{Op: "store", A: retired, B: some, C: value},
-		api.Instr{Op: "swap", A: retired, B: root, C: value},
-	)...)
+	return threads.New(n, api.Instr{Op: "swap", A: retired, B: root, C: value})
 }

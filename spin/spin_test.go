@@ -191,10 +191,16 @@ func TestNoLock(t *testing.T) {
 func TestNoName(t *testing.T) {
 	for _, p := range []string{"", "T", "tT", "9", ".", ".t", "t_", "t ", " t", "t\n", "ä", "tä", "t\x00", "t\xff", "{", "`", "abcdefghi", "t........", "abcdefghijkl", "abcdefghijklm", strings.Repeat("t", 1<<20)} {
 		wantErr(t, api.ErrName, p, 7, 0, 0)
+		if err := CheckName(p); err != api.ErrName {
+			t.Errorf("%.20q: %v", p, err)
+		}
 	}
 	for _, p := range []string{"a", "z9", "t.", "stop", "abcdefgh", "a1234567"} {
 		must(t, Take, p, 7, 0, 0)
 		must(t, Give, p, 7, 0, 0)
+		if err := CheckName(p); err != nil {
+			t.Error(p, err)
+		}
 	}
 }
 

@@ -16,7 +16,7 @@ const (
 
 // Words of a node; the first one is also that of the root.
 const (
-	value = 0
+	value = threads.Value
 	next  = 1
 	kept  = 2 // the one that came to the list of what is retired ahead of it: sections that still have the node find next as it was
 )

@@ -26,11 +26,7 @@ func (f flavour) op(x api.Op) ([]api.Instr, error) {
 // pushNode: a new one, if there is a cell.
 func pushNode(n int) ([]api.Instr, error) {
 	l, err := Push("push")
-	l = slices.Concat([]api.Instr{
-		{Op: "const", A: threads.Some, B: n},
-		{Op: "store", A: node, B: threads.Some, C: value},
-	}, l)
-	return slices.Concat([]api.Instr{{Op: "alloc", A: node}}, threads.Unless(node, l...)), err
+	return threads.New(n, l...), err
 }
 
 // popNode within a section, and then retire it. Behind the section the thread rests: else, of api.Counted, others would wait for it up to its own end.

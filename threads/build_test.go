@@ -23,12 +23,17 @@ func written(t *testing.T, s string) []api.Instr {
 	return l
 }
 
-// machine of threads whose ops note their numbers, behind a jump.
+// noting makes code of an op that notes its number, behind a jump.
+func noting(t *testing.T) func(x api.Op) ([]api.Instr, error) {
+	return func(x api.Op) ([]api.Instr, error) {
+		return written(t, "const 0 "+strconv.Itoa(x.N)+"\ngoto there\nconst 0 9\nlabel there\nmark 0\n"), nil
+	}
+}
+
+// machine of threads whose ops note their numbers.
 func machine(t *testing.T, f int, l [][]api.Op, cells ...[]int) (mach.Start, *mach.Machine) {
 	t.Helper()
-	s, codes, err := Build(f, l, func(x api.Op) ([]api.Instr, error) {
-		return written(t, "const 0 "+strconv.Itoa(x.N)+"\ngoto there\nconst 0 9\nlabel there\nmark 0\n"), nil
-	}, cells...)
+	s, codes, err := Build(f, l, noting(t), cells...)
 	if err != nil {
 		t.Fatal(f, err)
 	}
@@ -63,6 +68,41 @@ func TestBuild(t *testing.T) {
 				t.Error(f, thread, row)
 			}
 		}
+	}
+}
+
+// Without grace there are no other cells than the caller's, no other registers, and nothing behind the last op but a stop.
+func TestBare(t *testing.T) {
+	for _, cells := range [][][]int{nil, {{8}}, {{8}, {Name(0), 7}}} {
+		s, codes, err := Bare([][]api.Op{{put(1), put(2)}, nil, {put(4)}}, noting(t), cells...)
+		if err != nil || s.Cells != api.MaxCells || len(s.Init) != len(cells) || len(codes) != 3 || !slices.Equal(codes[1], written(t, "stop\n")) {
+			t.Fatal(s, codes, err)
+		}
+		for _, row := range s.Regs {
+			if !slices.Equal(row, []int{0, 0, 0, 0, 0, len(cells), 0, 0}) {
+				t.Error(cells, row)
+			}
+		}
+		m, err := mach.New(s, codes)
+		if err != nil {
+			t.Fatal(err)
+		}
+		for i := range 200 {
+			m.Run([]int{i})
+		}
+		want := []mach.Mark{{Thread: 2, N: 4}, {Thread: 0, N: 1}, {Thread: 0, N: 2}}
+		if got := m.Marks(); len(got) != 3 || !slices.Contains(got, want[0]) || slices.Index(got, want[1]) > slices.Index(got, want[2]) || m.Faults() > 0 || !m.Done(0) || !m.Done(1) || !m.Done(2) {
+			t.Error(cells, got, m.Faults())
+		}
+	}
+	s, codes, err := Bare([][]api.Op{{put(1)}, {put(2)}}, func(x api.Op) ([]api.Instr, error) {
+		if x.N == 2 {
+			return nil, api.ErrHeld
+		}
+		return nil, nil
+	}, nil)
+	if err != api.ErrHeld || s.Cells != 0 || s.Init != nil || s.Regs != nil || codes != nil {
+		t.Error(s, codes, err)
 	}
 }
 
@@ -132,6 +172,26 @@ func TestUnless(t *testing.T) {
 		m := play(t, 1, written(t, "const 2 "+strconv.Itoa(n)+"\n"), Unless(2, note...))
 		if len(m.Marks()) != want || !m.Done(0) {
 			t.Error(n, m.Marks())
+		}
+	}
+}
+
+// A new node has its number, and then the code is done; if there is no cell, it is passed over.
+func TestNew(t *testing.T) {
+	for n, more := range []string{"", "mark 3\n", "load 1 3 0\nmark 1\nmark 3\n"} {
+		l := New(7+n, written(t, more)...)
+		m := play(t, 2, l)
+		var want []mach.Mark
+		for _, v := range [][]int{nil, {Name(1)}, {7 + n, Name(1)}}[n] {
+			want = append(want, mach.Mark{N: v})
+		}
+		m.Drain(0)
+		if v, _ := m.Peek(api.Ref{Cell: 1}, Value); !slices.Equal(m.Marks(), want) || m.Cells() != 2 || v != 7+n || m.Faults() > 0 || !m.Done(0) {
+			t.Error(more, m.Marks(), m.Cells(), v, m.Faults())
+		}
+		m = play(t, 1, l)
+		if v, _ := m.Reg(0, Node); len(m.Marks()) > 0 || m.Cells() != 1 || v != 0 || m.Faults() > 0 || !m.Done(0) {
+			t.Error(more, m.Marks(), m.Cells(), v, m.Faults())
 		}
 	}
 }

@@ -17,6 +17,9 @@ const (
 	hub  = 7
 )
 
+// Value is the word of a node that has its number.
+const Value = 0
+
 // link of an own cell to the next one: a word.
 const link = 1
 
