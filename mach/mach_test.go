@@ -245,3 +245,19 @@ func TestNoMachine(t *testing.T) {
 		t.Error("a machine that is none has something")
 	}
 }
+
+// An error loses its place, and no more than that.
+func TestBare(t *testing.T) {
+	var none *api.Fault
+	for _, c := range []struct{ err, want error }{
+		{nil, nil},
+		{api.ErrName, api.ErrName},
+		{&api.Fault{At: 3, Err: api.ErrName}, api.ErrName},
+		{&api.Fault{At: 3}, nil},
+		{none, none},
+	} {
+		if got := Bare(c.err); got != c.want {
+			t.Error(c.err == nil, got, c.want)
+		}
+	}
+}

@@ -20,17 +20,17 @@ func programsOf(codes [][]api.Instr) ([]program, error) {
 	var programs []program
 	for i, l := range codes {
 		if err := code.Check(l); err != nil {
-			return nil, &api.Fault{At: i, Err: bare(err)}
+			return nil, &api.Fault{At: i, Err: Bare(err)}
 		}
 		programs = append(programs, program{code: slices.Clone(l), labels: code.Labels(l)})
 	}
 	return programs, nil
 }
 
-// bare error, without the place that it may have.
-func bare(err error) error {
+// Bare error, without the place that it may have.
+func Bare(err error) error {
 	var f *api.Fault
-	if errors.As(err, &f) {
+	if errors.As(err, &f) && f != nil {
 		return f.Err
 	}
 	return err
