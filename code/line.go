@@ -33,7 +33,7 @@ func instruction(text string) (api.Instr, bool) {
 	}
 	var n [3]int
 	for i := range k.count() {
-		if n[i], ok = number(parts[1+i]); !ok {
+		if n[i], ok = Number(parts[1+i], maxDigits); !ok {
 			return api.Instr{}, false
 		}
 	}
@@ -44,11 +44,14 @@ func instruction(text string) (api.Instr, bool) {
 	return x, true
 }
 
-// number is told back and held against its text, as Atoi takes signs and needless zeros, too.
-func number(s string) (int, bool) {
-	if len(s) > maxDigits {
+// Number of decimal digits, at most so many, without needless zeros. It is told back and held against its text, as Atoi takes signs and needless zeros, too.
+func Number(s string, most int) (int, bool) {
+	if len(s) > most {
 		return 0, false
 	}
 	n, err := strconv.Atoi(s)
-	return n, err == nil && n >= 0 && strconv.Itoa(n) == s
+	if err != nil || n < 0 || strconv.Itoa(n) != s {
+		return 0, false
+	}
+	return n, true
 }

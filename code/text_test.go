@@ -91,6 +91,27 @@ func TestWrongLines(t *testing.T) {
 	}
 }
 
+// P32: decimal digits, at most so many, without needless zeros.
+func TestNumber(t *testing.T) {
+	for s, want := range map[string]int{"0": 0, "7": 7, "10": 10, "99999": 99999} {
+		for most := len(s); most < 8; most++ {
+			if n, ok := Number(s, most); n != want || !ok {
+				t.Error(s, most, n, ok)
+			}
+		}
+		if n, ok := Number(s, len(s)-1); n != 0 || ok {
+			t.Error(s, n, ok)
+		}
+	}
+	for _, s := range []string{"", " ", "00", "01", "-0", "-1", "+1", "1 ", " 1", "1.", "0x1", "1_0", "1e0", "a", "٣", "\xff", "99999999999999999999"} {
+		for _, most := range []int{-1, 0, 1, 5, 50} {
+			if n, ok := Number(s, most); n != 0 || ok {
+				t.Error(s, most, n, ok)
+			}
+		}
+	}
+}
+
 // P32: a line may have what Check does not take, then it tells.
 func TestReadChecks(t *testing.T) {
 	for s, want := range map[string]error{
